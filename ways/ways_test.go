@@ -1,0 +1,82 @@
+// Package ways tests that each layer leans on those of the language's ways that its chapter names.
+package ways
+
+import (
+	"go/ast"
+	"go/importer"
+	"go/parser"
+	"go/token"
+	"go/types"
+	"path/filepath"
+	"strings"
+	"testing"
+)
+
+// asked has, by package, the words of its chapter's section 'Ways'.
+var asked = map[string][]string{
+	"date": {"array", "range-integer"},
+	"week": {"array", "range-integer"},
+}
+
+func TestWaysOfEachPackage(t *testing.T) {
+	for name, words := range asked {
+		got := waysOf(t, name)
+		for _, word := range words {
+			if !got[word] {
+				t.Errorf("package %s has no %s", name, word)
+			}
+		}
+	}
+}
+
+func waysOf(t *testing.T, name string) map[string]bool {
+	t.Helper()
+	set := token.NewFileSet()
+	files := parse(t, set, name)
+	info := &types.Info{Types: map[ast.Expr]types.TypeAndValue{}}
+	config := types.Config{Importer: importer.ForCompiler(set, "source", nil)}
+	if _, err := config.Check(name, set, files, info); err != nil {
+		t.Fatal(err)
+	}
+	got := map[string]bool{}
+	for _, f := range files {
+		ast.Inspect(f, func(n ast.Node) bool {
+			note(n, info, got)
+			return true
+		})
+	}
+	return got
+}
+
+func parse(t *testing.T, set *token.FileSet, name string) []*ast.File {
+	t.Helper()
+	paths, err := filepath.Glob(filepath.Join("..", name, "*.go"))
+	if err != nil {
+		t.Fatal(err)
+	}
+	var files []*ast.File
+	for _, path := range paths {
+		if strings.HasSuffix(path, "_test.go") {
+			continue
+		}
+		f, err := parser.ParseFile(set, path, nil, 0)
+		if err != nil {
+			t.Fatal(err)
+		}
+		files = append(files, f)
+	}
+	return files
+}
+
+func note(n ast.Node, info *types.Info, got map[string]bool) {
+	switch x := n.(type) {
+	case *ast.ArrayType:
+		if x.Len != nil {
+			got["array"] = true
+		}
+	case *ast.RangeStmt:
+		if b, ok := info.Types[x.X].Type.Underlying().(*types.Basic); ok && b.Info()&types.IsInteger != 0 {
+			got["range-integer"] = true
+		}
+	}
+}
