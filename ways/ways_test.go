@@ -16,6 +16,8 @@ import (
 var asked = map[string][]string{
 	"date": {"array", "range-integer"},
 	"week": {"array", "range-integer"},
+	"disk": {"array", "copy", "variadic"},
+	"log":  {"array", "copy"},
 }
 
 func TestWaysOfEachPackage(t *testing.T) {
@@ -33,7 +35,7 @@ func waysOf(t *testing.T, name string) map[string]bool {
 	t.Helper()
 	set := token.NewFileSet()
 	files := parse(t, set, name)
-	info := &types.Info{Types: map[ast.Expr]types.TypeAndValue{}}
+	info := &types.Info{Types: map[ast.Expr]types.TypeAndValue{}, Uses: map[*ast.Ident]types.Object{}}
 	config := types.Config{Importer: importer.ForCompiler(set, "source", nil)}
 	if _, err := config.Check(name, set, files, info); err != nil {
 		t.Fatal(err)
@@ -73,6 +75,14 @@ func note(n ast.Node, info *types.Info, got map[string]bool) {
 	case *ast.ArrayType:
 		if x.Len != nil {
 			got["array"] = true
+		}
+	case *ast.Ellipsis:
+		if x.Elt != nil {
+			got["variadic"] = true
+		}
+	case *ast.Ident:
+		if b, ok := info.Uses[x].(*types.Builtin); ok {
+			got[b.Name()] = true
 		}
 	case *ast.RangeStmt:
 		if b, ok := info.Types[x.X].Type.Underlying().(*types.Basic); ok && b.Info()&types.IsInteger != 0 {
