@@ -18,6 +18,8 @@ var asked = map[string][]string{
 	"week": {"array", "range-integer"},
 	"disk": {"array", "copy", "variadic"},
 	"log":  {"array", "copy"},
+	"mask": {"method"},
+	"cal":  {"map", "struct-key", "closure"},
 }
 
 func TestWaysOfEachPackage(t *testing.T) {
@@ -79,6 +81,17 @@ func note(n ast.Node, info *types.Info, got map[string]bool) {
 	case *ast.Ellipsis:
 		if x.Elt != nil {
 			got["variadic"] = true
+		}
+	case *ast.FuncLit:
+		got["closure"] = true
+	case *ast.FuncDecl:
+		if x.Recv != nil {
+			got["method"] = true
+		}
+	case *ast.MapType:
+		got["map"] = true
+		if _, ok := info.Types[x.Key].Type.Underlying().(*types.Struct); ok {
+			got["struct-key"] = true
 		}
 	case *ast.Ident:
 		if b, ok := info.Uses[x].(*types.Builtin); ok {
