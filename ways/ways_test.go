@@ -20,6 +20,8 @@ var asked = map[string][]string{
 	"log":  {"array", "copy"},
 	"mask": {"method"},
 	"cal":  {"map", "struct-key", "closure"},
+	"lex":  {"map", "struct-key"},
+	"jdl":  {"map", "struct-key", "panic", "recover", "defer", "method-value", "generic-function"},
 }
 
 func TestWaysOfEachPackage(t *testing.T) {
@@ -37,7 +39,7 @@ func waysOf(t *testing.T, name string) map[string]bool {
 	t.Helper()
 	set := token.NewFileSet()
 	files := parse(t, set, name)
-	info := &types.Info{Types: map[ast.Expr]types.TypeAndValue{}, Uses: map[*ast.Ident]types.Object{}}
+	info := &types.Info{Types: map[ast.Expr]types.TypeAndValue{}, Uses: map[*ast.Ident]types.Object{}, Selections: map[*ast.SelectorExpr]*types.Selection{}}
 	config := types.Config{Importer: importer.ForCompiler(set, "source", nil)}
 	if _, err := config.Check(name, set, files, info); err != nil {
 		t.Fatal(err)
@@ -88,6 +90,17 @@ func note(n ast.Node, info *types.Info, got map[string]bool) {
 		if x.Recv != nil {
 			got["method"] = true
 		}
+		if x.Type.TypeParams != nil {
+			got["generic-function"] = true
+		}
+	case *ast.DeferStmt:
+		got["defer"] = true
+	case *ast.CallExpr:
+		for _, arg := range x.Args {
+			if isMethodValue(arg, info) {
+				got["method-value"] = true
+			}
+		}
 	case *ast.MapType:
 		got["map"] = true
 		if _, ok := info.Types[x.Key].Type.Underlying().(*types.Struct); ok {
@@ -102,4 +115,14 @@ func note(n ast.Node, info *types.Info, got map[string]bool) {
 			got["range-integer"] = true
 		}
 	}
+}
+
+// isMethodValue tells whether an argument is a method that is handed on, not called.
+func isMethodValue(arg ast.Expr, info *types.Info) bool {
+	x, ok := arg.(*ast.SelectorExpr)
+	if !ok {
+		return false
+	}
+	picked := info.Selections[x]
+	return picked != nil && picked.Kind() == types.MethodVal
 }
