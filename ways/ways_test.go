@@ -22,6 +22,8 @@ var asked = map[string][]string{
 	"cal":  {"map", "struct-key", "closure"},
 	"lex":  {"map", "struct-key"},
 	"jdl":  {"map", "struct-key", "panic", "recover", "defer", "method-value", "generic-function"},
+	"rule": {"map", "struct-key"},
+	"book": {"map", "copy"},
 }
 
 func TestWaysOfEachPackage(t *testing.T) {
