@@ -24,6 +24,8 @@ var asked = map[string][]string{
 	"jdl":  {"map", "struct-key", "panic", "recover", "defer", "method-value", "generic-function"},
 	"rule": {"map", "struct-key"},
 	"book": {"map", "copy"},
+	"cond": {"map", "struct-key", "delete", "copy"},
+	"expr": {"map", "struct-key", "copy"},
 }
 
 func TestWaysOfEachPackage(t *testing.T) {
@@ -111,6 +113,9 @@ func note(n ast.Node, info *types.Info, got map[string]bool) {
 	case *ast.Ident:
 		if b, ok := info.Uses[x].(*types.Builtin); ok {
 			got[b.Name()] = true
+		}
+		if f, ok := info.Uses[x].(*types.Func); ok && f.FullName() == "maps.Copy" {
+			got["copy"] = true
 		}
 	case *ast.RangeStmt:
 		if b, ok := info.Types[x.X].Type.Underlying().(*types.Basic); ok && b.Info()&types.IsInteger != 0 {
