@@ -26,6 +26,8 @@ var asked = map[string][]string{
 	"book": {"map", "copy"},
 	"cond": {"map", "struct-key", "delete", "copy"},
 	"expr": {"map", "struct-key", "copy"},
+	"pool": {"interface", "type-switch", "map", "struct-key"},
+	"need": {"interface", "type-switch"},
 }
 
 func TestWaysOfEachPackage(t *testing.T) {
@@ -99,6 +101,12 @@ func note(n ast.Node, info *types.Info, got map[string]bool) {
 		}
 	case *ast.DeferStmt:
 		got["defer"] = true
+	case *ast.InterfaceType:
+		if len(x.Methods.List) > 0 {
+			got["interface"] = true
+		}
+	case *ast.TypeSwitchStmt:
+		got["type-switch"] = true
 	case *ast.CallExpr:
 		for _, arg := range x.Args {
 			if isMethodValue(arg, info) {
