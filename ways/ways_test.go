@@ -14,20 +14,22 @@ import (
 
 // asked has, by package, the words of its chapter's section 'Ways'.
 var asked = map[string][]string{
-	"date": {"array", "range-integer"},
-	"week": {"array", "range-integer"},
-	"disk": {"array", "copy", "variadic"},
-	"log":  {"array", "copy"},
-	"mask": {"method"},
-	"cal":  {"map", "struct-key", "closure"},
-	"lex":  {"map", "struct-key"},
-	"jdl":  {"map", "struct-key", "panic", "recover", "defer", "method-value", "generic-function"},
-	"rule": {"map", "struct-key"},
-	"book": {"map", "copy"},
-	"cond": {"map", "struct-key", "delete", "copy"},
-	"expr": {"map", "struct-key", "copy"},
-	"pool": {"interface", "type-switch", "map", "struct-key"},
-	"need": {"interface", "type-switch"},
+	"date":  {"array", "range-integer"},
+	"week":  {"array", "range-integer"},
+	"disk":  {"array", "copy", "variadic"},
+	"log":   {"array", "copy"},
+	"mask":  {"method"},
+	"cal":   {"map", "struct-key", "closure"},
+	"lex":   {"map", "struct-key"},
+	"jdl":   {"map", "struct-key", "panic", "recover", "defer", "method-value", "generic-function"},
+	"rule":  {"map", "struct-key"},
+	"book":  {"map", "copy"},
+	"cond":  {"map", "struct-key", "delete", "copy"},
+	"expr":  {"map", "struct-key", "copy"},
+	"pool":  {"interface", "type-switch", "map", "struct-key"},
+	"need":  {"interface", "type-switch"},
+	"when":  {"array", "array-compared", "range-integer"},
+	"order": {"map", "struct-key", "range-integer"},
 }
 
 func TestWaysOfEachPackage(t *testing.T) {
@@ -85,6 +87,10 @@ func note(n ast.Node, info *types.Info, got map[string]bool) {
 	case *ast.ArrayType:
 		if x.Len != nil {
 			got["array"] = true
+		}
+	case *ast.BinaryExpr:
+		if _, ok := info.Types[x.X].Type.Underlying().(*types.Array); ok && (x.Op == token.EQL || x.Op == token.NEQ) {
+			got["array-compared"] = true
 		}
 	case *ast.Ellipsis:
 		if x.Elt != nil {
