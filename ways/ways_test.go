@@ -30,6 +30,8 @@ var asked = map[string][]string{
 	"need":  {"interface", "type-switch"},
 	"when":  {"array", "array-compared", "range-integer"},
 	"order": {"map", "struct-key", "range-integer"},
+	"job":   {"iota", "struct-compared"},
+	"plan":  {"map", "named-key", "embedding", "promoted"},
 }
 
 func TestWaysOfEachPackage(t *testing.T) {
@@ -89,8 +91,8 @@ func note(n ast.Node, info *types.Info, got map[string]bool) {
 			got["array"] = true
 		}
 	case *ast.BinaryExpr:
-		if _, ok := info.Types[x.X].Type.Underlying().(*types.Array); ok && (x.Op == token.EQL || x.Op == token.NEQ) {
-			got["array-compared"] = true
+		if x.Op == token.EQL || x.Op == token.NEQ {
+			noteCompared(info.Types[x.X].Type, got)
 		}
 	case *ast.Ellipsis:
 		if x.Elt != nil {
@@ -107,6 +109,16 @@ func note(n ast.Node, info *types.Info, got map[string]bool) {
 		}
 	case *ast.DeferStmt:
 		got["defer"] = true
+	case *ast.StructType:
+		for _, f := range x.Fields.List {
+			if len(f.Names) == 0 {
+				got["embedding"] = true
+			}
+		}
+	case *ast.SelectorExpr:
+		if picked := info.Selections[x]; picked != nil && len(picked.Index()) > 1 {
+			got["promoted"] = true
+		}
 	case *ast.InterfaceType:
 		if len(x.Methods.List) > 0 {
 			got["interface"] = true
@@ -121,12 +133,13 @@ func note(n ast.Node, info *types.Info, got map[string]bool) {
 		}
 	case *ast.MapType:
 		got["map"] = true
-		if _, ok := info.Types[x.Key].Type.Underlying().(*types.Struct); ok {
-			got["struct-key"] = true
-		}
+		noteKey(info.Types[x.Key].Type, got)
 	case *ast.Ident:
 		if b, ok := info.Uses[x].(*types.Builtin); ok {
 			got[b.Name()] = true
+		}
+		if info.Uses[x] == types.Universe.Lookup("iota") {
+			got["iota"] = true
 		}
 		if f, ok := info.Uses[x].(*types.Func); ok && f.FullName() == "maps.Copy" {
 			got["copy"] = true
@@ -134,6 +147,28 @@ func note(n ast.Node, info *types.Info, got map[string]bool) {
 	case *ast.RangeStmt:
 		if b, ok := info.Types[x.X].Type.Underlying().(*types.Basic); ok && b.Info()&types.IsInteger != 0 {
 			got["range-integer"] = true
+		}
+	}
+}
+
+// noteCompared notes what kind of thing is held against another one whole.
+func noteCompared(t types.Type, got map[string]bool) {
+	switch t.Underlying().(type) {
+	case *types.Array:
+		got["array-compared"] = true
+	case *types.Struct:
+		got["struct-compared"] = true
+	}
+}
+
+// noteKey notes the keys of a map that are structs, or numbers of a type of their own.
+func noteKey(t types.Type, got map[string]bool) {
+	switch key := t.Underlying().(type) {
+	case *types.Struct:
+		got["struct-key"] = true
+	case *types.Basic:
+		if _, own := t.(*types.Named); own && key.Info()&types.IsInteger != 0 {
+			got["named-key"] = true
 		}
 	}
 }
